@@ -5,9 +5,11 @@ import (
 	"math"
 	"math/big"
 	"regexp"
+	"runtime"
 	"slices"
 	"strings"
 	"testing"
+	"unsafe"
 
 	"braidwork/api"
 	"braidwork/lex"
@@ -408,4 +410,16 @@ func TestAnswersAreTheCallers(t *testing.T) {
 	lex.Split("wrong ?")
 	checkTokens(t, s, word("a", 0), sign("=", 2), num("3i", 3i, 4), sign(";", 6), end(7))
 	checkTokens(t, s, word("a", 0), sign("=", 2), num("3i", 3i, 4), sign(";", 6), end(7))
+}
+
+func TestTextsAreNewMemory(t *testing.T) {
+	s := strings.Repeat("word 10i == ", 20)
+	from := uintptr(unsafe.Pointer(unsafe.StringData(s)))
+	l, _, _ := lex.Split(s)
+	for _, k := range l[:len(l)-1] {
+		if p := uintptr(unsafe.Pointer(unsafe.StringData(k.Text))); p >= from && p < from+uintptr(len(s)) {
+			t.Fatalf("R5: %v is kept from the text that was handed in", k)
+		}
+	}
+	runtime.KeepAlive(s)
 }
